@@ -1,0 +1,174 @@
+// Package rules tests what must hold of the program's own text: what it imports (the document's map, the language's rules) and which ways it leans on.
+package rules
+
+import (
+	"go/ast"
+	"go/importer"
+	"go/parser"
+	"go/token"
+	"go/types"
+	"os"
+	"path/filepath"
+	"slices"
+	"strconv"
+	"strings"
+	"testing"
+)
+
+const root = ".."
+
+// library is what may be imported of Go's own packages.
+const library = " bytes cmp container/heap errors iter maps math math/bits slices sort strconv strings sync sync/atomic unicode unicode/utf8 "
+
+// layers, in their order, and what each may call; * is all ahead of it.
+var layers = []struct{ name, calls string }{
+	{"api", ""},
+	{"wire", "api"},
+	{"crc", "api wire"},
+	{"disk", "api"},
+	{"net", "api"},
+	{"key", "api"},
+	{"page", "api wire crc key"},
+	{"node", "api key page"},
+	{"alloc", "api"},
+	{"record", "api wire crc key page"},
+	{"wal", "api record"},
+	{"pool", "api"},
+	{"redo", "api page node record"},
+	{"blink", "api page node alloc record redo"},
+	{"steps", "api key page node blink"},
+	{"points", "api wire crc"},
+	{"restart", "api page wal redo blink"},
+	{"replay", "api record redo"},
+	{"fold", "api key record"},
+	{"line", "api"},
+	{"ship", "api record wal"},
+	{"quorum", "api"},
+	{"vote", "api wire crc quorum"},
+	{"rewind", "api redo blink line fold"},
+	{"session", "api"},
+	{"replica", "*"},
+	{"trace", "api record fold"},
+	{"cluster", "*"},
+	{"desk", "api cluster"},
+}
+
+// mayCall are the layers that a layer may call.
+func mayCall(layer int) []string {
+	if layers[layer].calls != "*" {
+		return strings.Fields(layers[layer].calls)
+	}
+	var l []string
+	for _, x := range layers[:layer] {
+		l = append(l, x.name)
+	}
+	return l
+}
+
+// files are the parsed files of a folder, but those of its tests.
+func files(t *testing.T, set *token.FileSet, folder string) []*ast.File {
+	t.Helper()
+	names, err := filepath.Glob(filepath.Join(root, folder, "*.go"))
+	if err != nil {
+		t.Fatal(err)
+	}
+	var l []*ast.File
+	for _, name := range names {
+		if strings.HasSuffix(name, "_test.go") {
+			continue
+		}
+		f, err := parser.ParseFile(set, name, nil, parser.ParseComments)
+		if err != nil {
+			t.Fatal(err)
+		}
+		l = append(l, f)
+	}
+	return l
+}
+
+func TestLayersImportWhatTheyMay(t *testing.T) {
+	for i, layer := range layers {
+		set := token.NewFileSet()
+		l := files(t, set, layer.name)
+		if len(l) == 0 {
+			t.Errorf("%s: no such package", layer.name)
+		}
+		for _, f := range l {
+			for _, x := range f.Imports {
+				path, _ := strconv.Unquote(x.Path.Value)
+				own, isOwn := strings.CutPrefix(path, "lattice/")
+				if isOwn && slices.ContainsFunc(layers, func(y struct{ name, calls string }) bool { return y.name == own }) {
+					if !slices.Contains(mayCall(i), own) {
+						t.Errorf("%s: %s may not call %s", set.Position(x.Pos()), layer.name, own)
+					}
+				} else if !isOwn && !strings.Contains(library, " "+path+" ") {
+					t.Errorf("%s: %s may not be imported", set.Position(x.Pos()), path)
+				}
+			}
+		}
+	}
+}
+
+func TestNoLineSteersTheCompiler(t *testing.T) {
+	folders, err := os.ReadDir(root)
+	if err != nil {
+		t.Fatal(err)
+	}
+	for _, folder := range folders {
+		if !folder.IsDir() || folder.Name() == "sharedtests" {
+			continue
+		}
+		set := token.NewFileSet()
+		for _, f := range files(t, set, folder.Name()) {
+			for _, group := range f.Comments {
+				for _, c := range group.List {
+					if strings.HasPrefix(c.Text, "//go:") || strings.HasPrefix(c.Text, "// +build") {
+						t.Errorf("%s: %s", set.Position(c.Pos()), c.Text)
+					}
+				}
+			}
+		}
+	}
+}
+
+func TestWriterEmbedsAList(t *testing.T) {
+	found := false
+	for _, f := range files(t, token.NewFileSet(), "wire") {
+		ast.Inspect(f, func(n ast.Node) bool {
+			x, ok := n.(*ast.TypeSpec)
+			if !ok || x.Name.Name != "Writer" {
+				return true
+			}
+			if s, ok := x.Type.(*ast.StructType); ok {
+				found = slices.ContainsFunc(s.Fields.List, func(f *ast.Field) bool { return len(f.Names) == 0 })
+			}
+			return false
+		})
+	}
+	if !found {
+		t.Error("wire: a writer's bytes are no embedded list")
+	}
+}
+
+func TestSumRangesOverAnInteger(t *testing.T) {
+	set := token.NewFileSet()
+	l := files(t, set, "crc")
+	info := &types.Info{Types: map[ast.Expr]types.TypeAndValue{}}
+	conf := types.Config{Importer: importer.ForCompiler(set, "source", nil)}
+	if _, err := conf.Check("lattice/crc", set, l, info); err != nil {
+		t.Fatal(err)
+	}
+	found := false
+	for _, f := range l {
+		ast.Inspect(f, func(n ast.Node) bool {
+			if x, ok := n.(*ast.RangeStmt); ok {
+				b, basic := info.Types[x.X].Type.Underlying().(*types.Basic)
+				found = found || basic && b.Info()&types.IsInteger != 0
+			}
+			return true
+		})
+	}
+	if !found {
+		t.Error("crc: no loop over a range of an integer")
+	}
+}
