@@ -131,6 +131,47 @@ func TestNoLineSteersTheCompiler(t *testing.T) {
 	}
 }
 
+// has tells whether a node of a layer's text is one of those that are looked for.
+func has(t *testing.T, layer string, is func(ast.Node) bool) bool {
+	t.Helper()
+	found := false
+	for _, f := range files(t, token.NewFileSet(), layer) {
+		ast.Inspect(f, func(n ast.Node) bool {
+			found = found || n != nil && is(n)
+			return !found
+		})
+	}
+	return found
+}
+
+func TestSectorsAreArrays(t *testing.T) {
+	if !has(t, "disk", func(n ast.Node) bool {
+		x, ok := n.(*ast.ArrayType)
+		return ok && x.Len != nil
+	}) {
+		t.Error("disk: no array")
+	}
+	if !has(t, "disk", func(n ast.Node) bool {
+		x, ok := n.(*ast.CallExpr)
+		if !ok {
+			return false
+		}
+		f, ok := x.Fun.(*ast.Ident)
+		return ok && f.Name == "copy"
+	}) {
+		t.Error("disk: no bytes are laid by copy")
+	}
+}
+
+func TestMessagesAreCutByThreeIndices(t *testing.T) {
+	if !has(t, "net", func(n ast.Node) bool {
+		x, ok := n.(*ast.SliceExpr)
+		return ok && x.Slice3
+	}) {
+		t.Error("net: no slice with three indices")
+	}
+}
+
 func TestWriterEmbedsAList(t *testing.T) {
 	found := false
 	for _, f := range files(t, token.NewFileSet(), "wire") {
