@@ -131,11 +131,11 @@ func TestNoLineSteersTheCompiler(t *testing.T) {
 	}
 }
 
-// has tells whether a node of a layer's text is one of those that are looked for.
-func has(t *testing.T, layer string, is func(ast.Node) bool) bool {
+// has tells whether a node of some files' text is one of those that are looked for.
+func has(t *testing.T, l []*ast.File, is func(ast.Node) bool) bool {
 	t.Helper()
 	found := false
-	for _, f := range files(t, token.NewFileSet(), layer) {
+	for _, f := range l {
 		ast.Inspect(f, func(n ast.Node) bool {
 			found = found || n != nil && is(n)
 			return !found
@@ -144,14 +144,18 @@ func has(t *testing.T, layer string, is func(ast.Node) bool) bool {
 	return found
 }
 
+// isArray tells whether a node of the text is an array's type.
+func isArray(n ast.Node) bool {
+	x, ok := n.(*ast.ArrayType)
+	return ok && x.Len != nil
+}
+
 func TestSectorsAreArrays(t *testing.T) {
-	if !has(t, "disk", func(n ast.Node) bool {
-		x, ok := n.(*ast.ArrayType)
-		return ok && x.Len != nil
-	}) {
+	l := files(t, token.NewFileSet(), "disk")
+	if !has(t, l, isArray) {
 		t.Error("disk: no array")
 	}
-	if !has(t, "disk", func(n ast.Node) bool {
+	if !has(t, l, func(n ast.Node) bool {
 		x, ok := n.(*ast.CallExpr)
 		if !ok {
 			return false
@@ -164,11 +168,17 @@ func TestSectorsAreArrays(t *testing.T) {
 }
 
 func TestMessagesAreCutByThreeIndices(t *testing.T) {
-	if !has(t, "net", func(n ast.Node) bool {
+	if !has(t, files(t, token.NewFileSet(), "net"), func(n ast.Node) bool {
 		x, ok := n.(*ast.SliceExpr)
 		return ok && x.Slice3
 	}) {
 		t.Error("net: no slice with three indices")
+	}
+}
+
+func TestPagesAreArrays(t *testing.T) {
+	if !has(t, files(t, token.NewFileSet(), "page"), isArray) {
+		t.Error("page: no array")
 	}
 }
 
@@ -191,25 +201,37 @@ func TestWriterEmbedsAList(t *testing.T) {
 	}
 }
 
-func TestSumRangesOverAnInteger(t *testing.T) {
+// rangesOver tells whether a loop of a layer ranges over a value of such a basic kind.
+func rangesOver(t *testing.T, layer string, kind types.BasicInfo) bool {
+	t.Helper()
 	set := token.NewFileSet()
-	l := files(t, set, "crc")
+	l := files(t, set, layer)
 	info := &types.Info{Types: map[ast.Expr]types.TypeAndValue{}}
 	conf := types.Config{Importer: importer.ForCompiler(set, "source", nil)}
-	if _, err := conf.Check("lattice/crc", set, l, info); err != nil {
+	if _, err := conf.Check("lattice/"+layer, set, l, info); err != nil {
 		t.Fatal(err)
 	}
-	found := false
-	for _, f := range l {
-		ast.Inspect(f, func(n ast.Node) bool {
-			if x, ok := n.(*ast.RangeStmt); ok {
-				b, basic := info.Types[x.X].Type.Underlying().(*types.Basic)
-				found = found || basic && b.Info()&types.IsInteger != 0
-			}
-			return true
-		})
-	}
-	if !found {
+	return has(t, l, func(n ast.Node) bool {
+		x, ok := n.(*ast.RangeStmt)
+		if !ok {
+			return false
+		}
+		b, ok := info.Types[x.X].Type.Underlying().(*types.Basic)
+		return ok && b.Info()&kind != 0
+	})
+}
+
+func TestSumRangesOverAnInteger(t *testing.T) {
+	if !rangesOver(t, "crc", types.IsInteger) {
 		t.Error("crc: no loop over a range of an integer")
+	}
+}
+
+func TestKeysAreGoneThroughByRanges(t *testing.T) {
+	if !rangesOver(t, "key", types.IsInteger) {
+		t.Error("key: no loop over a range of an integer")
+	}
+	if !rangesOver(t, "key", types.IsString) {
+		t.Error("key: no loop over a text's letters")
 	}
 }
