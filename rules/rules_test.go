@@ -235,3 +235,18 @@ func TestKeysAreGoneThroughByRanges(t *testing.T) {
 		t.Error("key: no loop over a text's letters")
 	}
 }
+
+func TestLeavesFallThrough(t *testing.T) {
+	if !has(t, files(t, token.NewFileSet(), "node"), func(n ast.Node) bool {
+		x, ok := n.(*ast.BranchStmt)
+		return ok && x.Tok == token.FALLTHROUGH
+	}) {
+		t.Error("node: no switch falls through")
+	}
+}
+
+func TestBitsAreCountedByARange(t *testing.T) {
+	if !rangesOver(t, "alloc", types.IsInteger) {
+		t.Error("alloc: no loop over a range of an integer")
+	}
+}
