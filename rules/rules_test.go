@@ -236,12 +236,47 @@ func TestKeysAreGoneThroughByRanges(t *testing.T) {
 	}
 }
 
+// fallsThrough tells whether a node of the text falls through to the next case of a switch.
+func fallsThrough(n ast.Node) bool {
+	x, ok := n.(*ast.BranchStmt)
+	return ok && x.Tok == token.FALLTHROUGH
+}
+
 func TestLeavesFallThrough(t *testing.T) {
-	if !has(t, files(t, token.NewFileSet(), "node"), func(n ast.Node) bool {
-		x, ok := n.(*ast.BranchStmt)
-		return ok && x.Tok == token.FALLTHROUGH
-	}) {
+	if !has(t, files(t, token.NewFileSet(), "node"), fallsThrough) {
 		t.Error("node: no switch falls through")
+	}
+}
+
+func TestKindsFallThrough(t *testing.T) {
+	if !has(t, files(t, token.NewFileSet(), "record"), fallsThrough) {
+		t.Error("record: no switch falls through")
+	}
+}
+
+// isLabelledLoop tells whether a node of the text is a loop that is ended by its label.
+func isLabelledLoop(n ast.Node) bool {
+	x, ok := n.(*ast.LabeledStmt)
+	if !ok {
+		return false
+	}
+	loop, ok := x.Stmt.(*ast.ForStmt)
+	if !ok {
+		return false
+	}
+	ended := false
+	ast.Inspect(loop, func(n ast.Node) bool {
+		if b, ok := n.(*ast.BranchStmt); ok && b.Tok == token.BREAK && b.Label != nil && b.Label.Name == x.Label.Name {
+			ended = true
+		}
+		return !ended
+	})
+	return ended
+}
+
+func TestFramesAreGoneThroughByALabelledLoop(t *testing.T) {
+	if !has(t, files(t, token.NewFileSet(), "wal"), isLabelledLoop) {
+		t.Error("wal: no loop is ended by its label")
 	}
 }
 
