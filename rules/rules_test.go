@@ -150,19 +150,24 @@ func isArray(n ast.Node) bool {
 	return ok && x.Len != nil
 }
 
-func TestSectorsAreArrays(t *testing.T) {
-	l := files(t, token.NewFileSet(), "disk")
-	if !has(t, l, isArray) {
-		t.Error("disk: no array")
-	}
-	if !has(t, l, func(n ast.Node) bool {
+// calls tells of a node of the text whether it calls one of the language's own functions.
+func calls(name string) func(ast.Node) bool {
+	return func(n ast.Node) bool {
 		x, ok := n.(*ast.CallExpr)
 		if !ok {
 			return false
 		}
 		f, ok := x.Fun.(*ast.Ident)
-		return ok && f.Name == "copy"
-	}) {
+		return ok && f.Name == name
+	}
+}
+
+func TestSectorsAreArrays(t *testing.T) {
+	l := files(t, token.NewFileSet(), "disk")
+	if !has(t, l, isArray) {
+		t.Error("disk: no array")
+	}
+	if !has(t, l, calls("copy")) {
 		t.Error("disk: no bytes are laid by copy")
 	}
 }
@@ -277,6 +282,28 @@ func isLabelledLoop(n ast.Node) bool {
 func TestFramesAreGoneThroughByALabelledLoop(t *testing.T) {
 	if !has(t, files(t, token.NewFileSet(), "wal"), isLabelledLoop) {
 		t.Error("wal: no loop is ended by its label")
+	}
+}
+
+func TestPagesAreHeldInAMap(t *testing.T) {
+	l := files(t, token.NewFileSet(), "pool")
+	if !has(t, l, func(n ast.Node) bool {
+		x, ok := n.(*ast.StructType)
+		return ok && slices.ContainsFunc(x.Fields.List, func(f *ast.Field) bool {
+			_, ok := f.Type.(*ast.MapType)
+			return ok
+		})
+	}) {
+		t.Error("pool: no field is a map")
+	}
+	if !has(t, l, calls("delete")) {
+		t.Error("pool: no page is let go by delete")
+	}
+}
+
+func TestKindsThatNeedThePageFallThrough(t *testing.T) {
+	if !has(t, files(t, token.NewFileSet(), "redo"), fallsThrough) {
+		t.Error("redo: no switch falls through")
 	}
 }
 
