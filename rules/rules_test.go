@@ -206,24 +206,42 @@ func TestWriterEmbedsAList(t *testing.T) {
 	}
 }
 
-// rangesOver tells whether a loop of a layer ranges over a value of such a basic kind.
-func rangesOver(t *testing.T, layer string, kind types.BasicInfo) bool {
+// checked are the files of a layer, and what their types are.
+func checked(t *testing.T, layer string) ([]*ast.File, *types.Info) {
 	t.Helper()
 	set := token.NewFileSet()
 	l := files(t, set, layer)
-	info := &types.Info{Types: map[ast.Expr]types.TypeAndValue{}}
+	info := &types.Info{Types: map[ast.Expr]types.TypeAndValue{}, Selections: map[*ast.SelectorExpr]*types.Selection{}}
 	conf := types.Config{Importer: importer.ForCompiler(set, "source", nil)}
 	if _, err := conf.Check("lattice/"+layer, set, l, info); err != nil {
 		t.Fatal(err)
 	}
+	return l, info
+}
+
+// ranges tells whether a loop of a layer ranges over a value of such a type.
+func ranges(t *testing.T, layer string, is func(types.Type) bool) bool {
+	t.Helper()
+	l, info := checked(t, layer)
 	return has(t, l, func(n ast.Node) bool {
 		x, ok := n.(*ast.RangeStmt)
-		if !ok {
-			return false
-		}
-		b, ok := info.Types[x.X].Type.Underlying().(*types.Basic)
+		return ok && is(info.Types[x.X].Type.Underlying())
+	})
+}
+
+// rangesOver tells whether a loop of a layer ranges over a value of such a basic kind.
+func rangesOver(t *testing.T, layer string, kind types.BasicInfo) bool {
+	t.Helper()
+	return ranges(t, layer, func(x types.Type) bool {
+		b, ok := x.(*types.Basic)
 		return ok && b.Info()&kind != 0
 	})
+}
+
+// isFunction tells whether a type is a function's.
+func isFunction(x types.Type) bool {
+	_, ok := x.(*types.Signature)
+	return ok
 }
 
 func TestSumRangesOverAnInteger(t *testing.T) {
@@ -310,5 +328,65 @@ func TestKindsThatNeedThePageFallThrough(t *testing.T) {
 func TestBitsAreCountedByARange(t *testing.T) {
 	if !rangesOver(t, "alloc", types.IsInteger) {
 		t.Error("alloc: no loop over a range of an integer")
+	}
+}
+
+func TestRowsAreGoneThroughByAnIterator(t *testing.T) {
+	if !ranges(t, "blink", isFunction) {
+		t.Error("blink: no loop over a function")
+	}
+}
+
+func TestPhasesAreMethodValues(t *testing.T) {
+	l, info := checked(t, "steps")
+	selects := func(x ast.Expr, kind types.SelectionKind) bool {
+		s, ok := x.(*ast.SelectorExpr)
+		return ok && info.Selections[s] != nil && info.Selections[s].Kind() == kind
+	}
+	if !has(t, l, func(n ast.Node) bool {
+		x, ok := n.(*ast.AssignStmt)
+		return ok && len(x.Lhs) == 1 && selects(x.Lhs[0], types.FieldVal) && selects(x.Rhs[0], types.MethodVal)
+	}) {
+		t.Error("steps: no field is given a method value")
+	}
+}
+
+// fallsThroughTo counts the cases that fall through to one that calls a method.
+func fallsThroughTo(l []*ast.File, method string) int {
+	count := 0
+	for _, f := range l {
+		ast.Inspect(f, func(n ast.Node) bool {
+			x, ok := n.(*ast.SwitchStmt)
+			if !ok {
+				return true
+			}
+			for i, c := range x.Body.List {
+				body := c.(*ast.CaseClause).Body
+				if len(body) > 0 && fallsThrough(body[len(body)-1]) && callsMethod(x.Body.List[i+1], method) {
+					count++
+				}
+			}
+			return true
+		})
+	}
+	return count
+}
+
+// callsMethod tells whether a method of that name is called somewhere in a node of the text.
+func callsMethod(n ast.Node, method string) bool {
+	found := false
+	ast.Inspect(n, func(n ast.Node) bool {
+		if x, ok := n.(*ast.CallExpr); ok {
+			s, ok := x.Fun.(*ast.SelectorExpr)
+			found = found || ok && s.Sel.Name == method
+		}
+		return !found
+	})
+	return found
+}
+
+func TestPhasesFallThroughToParting(t *testing.T) {
+	if n := fallsThroughTo(files(t, token.NewFileSet(), "steps"), "part"); n < 2 {
+		t.Errorf("steps: %d phases fall through to parting", n)
 	}
 }
