@@ -327,7 +327,7 @@ func TestWhatIsNoTree(t *testing.T) {
 	}
 }
 
-// isTree is the chapter's text, sentence by sentence.
+// isTree is the chapter's text, sentence by sentence, and what 13.4 asks besides: in no row a High is below the one ahead of it.
 func isTree(l []redo.Slot) bool {
 	nodes, last := map[int]api.Node{}, 0
 	for _, s := range l {
@@ -347,7 +347,7 @@ func isTree(l []redo.Slot) bool {
 		for p := first; ; p = nodes[p].Right {
 			n, there := nodes[p]
 			_, already := rowOf[p]
-			if !there || n.Level != level || already || (n.High == "") != (n.Right == 0) {
+			if !there || n.Level != level || already || (n.High == "") != (n.Right == 0) || n.High != "" && n.High < low {
 				return false
 			}
 			for _, k := range n.Keys {
@@ -402,43 +402,48 @@ type span struct {
 }
 
 // randomTree is a tree of some levels with keys of some letters, in which some pages are no kids, and some are in no row.
-func randomTree(rd *rand.Rand, levels int) []redo.Slot {
+func randomTree(rd *rand.Rand, levels int) []redo.Slot { return pagesOf(rd, randomRows(rd, levels)) }
+
+// randomRows are the low ends of a tree's rows, from the leaves' up to the root's, rising: those of each row are some of the row below.
+func randomRows(rd *rand.Rand, levels int) [][]string {
+	row := append([]string{""}, randomKeys(rd, 1+rd.Intn(4)*levels)...)
+	var rows [][]string
+	for range levels - 1 {
+		rows = append(rows, slices.Clone(row))
+		row = slices.DeleteFunc(row, func(s string) bool { return s != "" && rd.Intn(2) == 0 })
+	}
+	return append(rows, []string{""})
+}
+
+// pagesOf are pages of rows of such low ends, which need not rise; and some that are in no row.
+func pagesOf(rd *rand.Rand, rows [][]string) []redo.Slot {
 	free := rd.Perm(60)
 	take := func() int { p := free[0] + 2; free = free[1:]; return p }
 	var l []redo.Slot
-	var row []span
-	cuts := []string{""}
-	for _, k := range randomKeys(rd, 1+rd.Intn(4)*levels) {
-		cuts = append(cuts, k)
-	}
-	for level := range levels {
-		isTop := level == levels-1
-		if isTop {
-			cuts = []string{""}
-		}
+	var below []span
+	for level, row := range rows {
 		var made []span
-		for i, low := range cuts {
+		for i, low := range row {
 			p := 1
-			if !isTop {
+			if level < len(rows)-1 {
 				p = take()
 			}
 			made = append(made, span{p, low})
 			n := api.Node{Level: level, LSN: rd.Intn(9)}
-			if i+1 < len(cuts) {
-				n.High = cuts[i+1]
+			if i+1 < len(row) {
+				n.High = row[i+1]
 			}
 			if level == 0 {
 				fillLeaf(rd, &n, low)
 			} else {
-				fillInner(rd, &n, low, row)
+				fillInner(rd, &n, low, below)
 			}
 			l = append(l, redo.Slot{Page: p, Node: n})
 		}
 		for i := range made[1:] {
 			at(l, made[i].page).Right = made[i+1].page
 		}
-		row = made
-		cuts = slices.DeleteFunc(cuts, func(s string) bool { return s != "" && rd.Intn(2) == 0 })
+		below = made
 	}
 	for range rd.Intn(3) {
 		l = append(l, redo.Slot{Page: take(), Node: leaf("q", rd.Intn(9), randomKeys(rd, 1)...)})
@@ -473,14 +478,19 @@ func fillLeaf(rd *rand.Rand, n *api.Node, low string) {
 	}
 }
 
-// fillInner has an inner node have the page of the row below with its low end, and some that follow, below its High.
+// fillInner has an inner node have a page of the row below with its low end, and some whose low ends follow, below its High.
 func fillInner(rd *rand.Rand, n *api.Node, low string, below []span) {
-	for _, s := range below {
+	byLow := slices.Clone(below)
+	rd.Shuffle(len(byLow), func(i, j int) { byLow[i], byLow[j] = byLow[j], byLow[i] }) // of those of one low end any may be the kid
+	slices.SortStableFunc(byLow, func(a, b span) int { return strings.Compare(a.low, b.low) })
+	last := ""
+	for _, s := range byLow {
 		switch {
-		case s.low == low:
-			n.Kids = append(n.Kids, s.page)
-		case s.low > low && (n.High == "" || s.low < n.High) && rd.Intn(3) > 0:
+		case s.low == low && n.Kids == nil:
+			n.Kids = []int{s.page}
+		case s.low > low && s.low > last && (n.High == "" || s.low < n.High) && rd.Intn(3) > 0:
 			n.Keys, n.Kids = append(n.Keys, s.low), append(n.Kids, s.page)
+			last = s.low
 		}
 	}
 }
@@ -553,14 +563,81 @@ func TestRandomPagesAgainstTheChaptersText(t *testing.T) {
 	}
 }
 
-// An empty page may have a High that is not above its low end: the chapter's text does not refuse it.
-func TestAnEmptyPageThatEndsAheadOfItsLowEnd(t *testing.T) {
-	wantTree(t, "High at the low end", []redo.Slot{
-		{Page: 1, Node: inner(1, "", 0, []int{2})}, {Page: 2, Node: leaf("m", 3, "a")}, {Page: 3, Node: leaf("m", 4)}, {Page: 4, Node: leaf("", 0, "m")},
-	}, entries("a", "m"))
-	wantTree(t, "High below the low end", []redo.Slot{
-		{Page: 1, Node: inner(1, "", 0, []int{2})}, {Page: 2, Node: leaf("m", 3, "a")}, {Page: 3, Node: leaf("c", 4)}, {Page: 4, Node: leaf("", 0, "n")},
-	}, entries("a", "n"))
+// 13.4 holds only where no row goes back: a page that has no keys, so that these say nothing of its High, must not end below its low end. Where High is the low end, the chapter's text takes it, and nothing is lost.
+
+// rowsThatGoBack are pages that would be a tree, but that in one row a High is below the one ahead of it.
+func rowsThatGoBack() map[string][]redo.Slot {
+	under := func(leaves ...redo.Slot) []redo.Slot {
+		return append([]redo.Slot{{Page: 1, Node: inner(1, "", 0, []int{2})}}, leaves...)
+	}
+	above := func(rows ...redo.Slot) []redo.Slot { // leaves that rise
+		return slices.Concat([]redo.Slot{{Page: 1, Node: inner(2, "", 0, []int{2})}}, rows, []redo.Slot{
+			{Page: 6, Node: leaf("c", 7, "a")}, {Page: 7, Node: leaf("d", 8, "c")}, {Page: 8, Node: leaf("m", 9, "d", "k")}, {Page: 9, Node: leaf("", 0, "m", "n")},
+		})
+	}
+	return map[string][]redo.Slot{
+		"k and d":                 under(redo.Slot{Page: 2, Node: leaf("m", 3, "k")}, redo.Slot{Page: 3, Node: leaf("c", 4)}, redo.Slot{Page: 4, Node: leaf("", 0, "d")}),
+		"d alone":                 under(redo.Slot{Page: 2, Node: leaf("m", 3)}, redo.Slot{Page: 3, Node: leaf("c", 4)}, redo.Slot{Page: 4, Node: leaf("", 0, "d")}),
+		"d twice":                 under(redo.Slot{Page: 2, Node: leaf("m", 3, "d")}, redo.Slot{Page: 3, Node: leaf("c", 4)}, redo.Slot{Page: 4, Node: leaf("", 0, "d")}),
+		"keys that rise":          under(redo.Slot{Page: 2, Node: leaf("m", 3, "a")}, redo.Slot{Page: 3, Node: leaf("c", 4)}, redo.Slot{Page: 4, Node: leaf("", 0, "n")}),
+		"no keys at all":          under(redo.Slot{Page: 2, Node: leaf("m", 3)}, redo.Slot{Page: 3, Node: leaf("c", 4)}, redo.Slot{Page: 4, Node: leaf("", 0)}),
+		"back and on again":       under(redo.Slot{Page: 2, Node: leaf("m", 3, "k")}, redo.Slot{Page: 3, Node: leaf("c", 4)}, redo.Slot{Page: 4, Node: leaf("m", 5, "d")}, redo.Slot{Page: 5, Node: leaf("", 0, "n")}),
+		"back behind a stop":      under(redo.Slot{Page: 2, Node: leaf("m", 3, "k")}, redo.Slot{Page: 3, Node: leaf("m", 4)}, redo.Slot{Page: 4, Node: leaf("c", 5)}, redo.Slot{Page: 5, Node: leaf("", 0, "d")}),
+		"back to a beginning":     under(redo.Slot{Page: 2, Node: leaf("ma", 3, "k")}, redo.Slot{Page: 3, Node: leaf("m", 4)}, redo.Slot{Page: 4, Node: leaf("", 0, "m")}),
+		"back by a byte from 128": under(redo.Slot{Page: 2, Node: leaf("\x80", 3, "k")}, redo.Slot{Page: 3, Node: leaf("\x7f", 4)}, redo.Slot{Page: 4, Node: leaf("", 0, "\x7f")}),
+		"leaves that are kids": {
+			{Page: 1, Node: inner(1, "", 0, []int{2, 4, 3}, "c", "m")}, {Page: 2, Node: leaf("m", 3, "k")}, {Page: 3, Node: leaf("c", 4)}, {Page: 4, Node: leaf("", 0, "d")},
+		},
+		"a leaf with a key below its low end": under(redo.Slot{Page: 2, Node: leaf("m", 3, "k")}, redo.Slot{Page: 3, Node: leaf("c", 4, "b")}, redo.Slot{Page: 4, Node: leaf("", 0, "d")}),
+		"a leaf with a key beyond its High":   under(redo.Slot{Page: 2, Node: leaf("m", 3, "k")}, redo.Slot{Page: 3, Node: leaf("c", 4, "n")}, redo.Slot{Page: 4, Node: leaf("", 0, "d")}),
+		"an inner page without keys": above(
+			redo.Slot{Page: 2, Node: inner(1, "m", 3, []int{6, 7, 8}, "c", "d")}, redo.Slot{Page: 3, Node: inner(1, "c", 4, []int{9})}, redo.Slot{Page: 4, Node: inner(1, "", 0, []int{7, 9}, "m")}),
+		"inner pages without keys": above(
+			redo.Slot{Page: 2, Node: inner(1, "m", 3, []int{6})}, redo.Slot{Page: 3, Node: inner(1, "c", 4, []int{9})}, redo.Slot{Page: 4, Node: inner(1, "", 0, []int{7})}),
+		"an inner page with a key below its low end": above(
+			redo.Slot{Page: 2, Node: inner(1, "m", 3, []int{6})}, redo.Slot{Page: 3, Node: inner(1, "d", 4, []int{9, 7}, "c")}, redo.Slot{Page: 4, Node: inner(1, "", 0, []int{8})}),
+		"an inner page with a key beyond its High": above(
+			redo.Slot{Page: 2, Node: inner(1, "d", 3, []int{6})}, redo.Slot{Page: 3, Node: inner(1, "c", 4, []int{8, 9}, "m")}, redo.Slot{Page: 4, Node: inner(1, "", 0, []int{7})}),
+		"both rows": {
+			{Page: 1, Node: inner(2, "", 0, []int{2})},
+			{Page: 2, Node: inner(1, "m", 3, []int{6})}, {Page: 3, Node: inner(1, "c", 4, []int{7})}, {Page: 4, Node: inner(1, "", 0, []int{8})},
+			{Page: 6, Node: leaf("m", 7, "k")}, {Page: 7, Node: leaf("c", 8)}, {Page: 8, Node: leaf("", 0, "d")},
+		},
+	}
+}
+
+func TestRowsThatGoBack(t *testing.T) {
+	for what, l := range rowsThatGoBack() {
+		if isTree(l) {
+			t.Errorf("%s: the model takes it", what)
+		}
+		wantNone(t, what, l)
+	}
+}
+
+func TestPagesToWhichNoKeyBelongs(t *testing.T) {
+	leaves := func() []redo.Slot {
+		return []redo.Slot{
+			{Page: 1, Node: inner(1, "", 0, []int{2, 3}, "m")}, {Page: 2, Node: leaf("m", 3, "a")},
+			{Page: 3, Node: leaf("m", 4)}, {Page: 4, Node: leaf("m", 5)}, {Page: 5, Node: leaf("", 0, "m", "n")},
+		}
+	}
+	for _, kid := range []int{3, 4, 5} { // all have the low end m
+		l := leaves()
+		at(l, 1).Kids[1] = kid
+		wantTree(t, "leaves whose High is their low end", l, entries("a", "m", "n"))
+	}
+	wantTree(t, "an inner page whose High is its low end", []redo.Slot{
+		{Page: 1, Node: inner(2, "", 0, []int{2, 3}, "m")},
+		{Page: 2, Node: inner(1, "m", 3, []int{5})}, {Page: 3, Node: inner(1, "m", 4, []int{6})}, {Page: 4, Node: inner(1, "", 0, []int{6})},
+		{Page: 5, Node: leaf("m", 6, "a")}, {Page: 6, Node: leaf("", 0, "m", "n")},
+	}, entries("a", "m", "n"))
+	l := leaves()
+	*at(l, 3) = leaf("m", 4, "m")
+	wantNone(t, "one that has a key nevertheless", l)
+	l = leaves()
+	*at(l, 4) = leaf("m", 5, "l")
+	wantNone(t, "one that has a key below its low end", l)
 }
 
 // 13.2
@@ -911,14 +988,16 @@ func TestScan(t *testing.T) {
 
 func TestPagesThatAreNoTreeAnyMore(t *testing.T) {
 	for _, rs := range [][]api.Record{
-		{put(9, "a", "x")},                             // below its low end
-		{fresh(9, leaf("", 0, "c"))},                   // the row ends
-		{fresh(7, leaf("zz", 0, "r"))},                 // a High at the end
-		{fresh(1, leaf("a", 0))},                       // the root has a High
-		{cut(7, "t", 99)},                              // a page that is not there
-		{fresh(4, leaf("c", 4, "a"))},                  // the row goes round
-		{post(3, "s", 9)},                              // a kid of another low end
-		{fresh(2, inner(2, "m", 3, []int{4, 5}, "f"))}, // another level
+		{put(9, "a", "x")},                                    // below its low end
+		{fresh(9, leaf("", 0, "c"))},                          // the row ends
+		{fresh(7, leaf("zz", 0, "r"))},                        // a High at the end
+		{fresh(1, leaf("a", 0))},                              // the root has a High
+		{cut(7, "t", 99)},                                     // a page that is not there
+		{fresh(4, leaf("c", 4, "a"))},                         // the row goes round
+		{post(3, "s", 9)},                                     // a kid of another low end
+		{fresh(2, inner(2, "m", 3, []int{4, 5}, "f"))},        // another level
+		{fresh(8, leaf("f", 5, "d")), fresh(9, leaf("b", 8))}, // the row of leaves goes back
+		{fresh(10, inner(1, "m", 3, []int{5})), fresh(8, inner(1, "f", 10, []int{6})), fresh(2, inner(1, "m", 8, []int{4, 5}, "f"))}, // an inner row does
 	} {
 		x := treeOf(t, sample())
 		mustSay(t, x, rs...)
@@ -972,39 +1051,42 @@ func TestANilTree(t *testing.T) {
 
 // 13.4
 
+// wantRisingAndFound tells whether the entries of pages that are taken for a tree rise, and Get and Scan tell what they say.
+func wantRisingAndFound(t *testing.T, rd *rand.Rand, l []redo.Slot) {
+	t.Helper()
+	x := treeOf(t, l)
+	all, _ := blink.Entries(l)
+	for i := range all[min(1, len(all)):] {
+		if all[i].Key >= all[i+1].Key {
+			t.Fatalf("the keys do not rise: %v", all)
+		}
+	}
+	for _, k := range append(randomKeys(rd, 20), "", "z") {
+		i := slices.IndexFunc(all, func(e api.Entry) bool { return e.Key == k })
+		v, ok := x.Get(k)
+		if ok != (i >= 0) || ok && v != all[i].Value || !ok && v != "" {
+			t.Fatalf("Get(%s): %q, %v of %v", k, v, ok, all)
+		}
+	}
+	bounds := append(randomKeys(rd, 4), "")
+	from, below, most := bounds[rd.Intn(len(bounds))], bounds[rd.Intn(len(bounds))], rd.Intn(9)
+	var want []api.Entry
+	for _, e := range all {
+		if e.Key >= from && (below == "" || e.Key < below) && len(want) < most {
+			want = append(want, e)
+		}
+	}
+	if got := x.Scan(from, below, most); !slices.Equal(got, want) {
+		t.Fatalf("Scan(%s, %s, %d): %v, not %v", from, below, most, got, want)
+	}
+}
+
 func TestEntriesRiseAndAreFound(t *testing.T) {
 	rd := rand.New(rand.NewSource(2))
 	notKids := 0
 	for range 3000 {
 		l := randomTree(rd, 1+rd.Intn(4))
-		x := treeOf(t, l)
-		all, _ := blink.Entries(l)
-		if !slices.IsSortedFunc(all, func(a, b api.Entry) int {
-			if a.Key >= b.Key {
-				return 1
-			}
-			return -1
-		}) {
-			t.Fatalf("the keys do not rise: %v", all)
-		}
-		for _, k := range append(randomKeys(rd, 20), "", "z") {
-			i := slices.IndexFunc(all, func(e api.Entry) bool { return e.Key == k })
-			v, ok := x.Get(k)
-			if ok != (i >= 0) || ok && v != all[i].Value || !ok && v != "" {
-				t.Fatalf("Get(%s): %q, %v of %v", k, v, ok, all)
-			}
-		}
-		bounds := append(randomKeys(rd, 4), "")
-		from, below, most := bounds[rd.Intn(len(bounds))], bounds[rd.Intn(len(bounds))], rd.Intn(9)
-		var want []api.Entry
-		for _, e := range all {
-			if e.Key >= from && (below == "" || e.Key < below) && len(want) < most {
-				want = append(want, e)
-			}
-		}
-		if got := x.Scan(from, below, most); !slices.Equal(got, want) {
-			t.Fatalf("Scan(%s, %s, %d): %v, not %v", from, below, most, got, want)
-		}
+		wantRisingAndFound(t, rd, l)
 		kids := 0
 		for _, s := range l {
 			kids += len(s.Node.Kids)
@@ -1015,6 +1097,50 @@ func TestEntriesRiseAndAreFound(t *testing.T) {
 	}
 	if notKids < 1000 {
 		t.Errorf("only %d trees have a page that is no kid", notKids)
+	}
+}
+
+// repeated are rows in which some low ends come again: beside themselves, so that High is the low end, or further on, so that the row goes back.
+func repeated(rd *rand.Rand, rows [][]string) [][]string {
+	for i, row := range rows[:len(rows)-1] {
+		for range rd.Intn(3) {
+			if len(row) > 1 {
+				from := 1 + rd.Intn(len(row)-1)
+				to := from
+				if rd.Intn(3) == 0 {
+					to = 1 + rd.Intn(len(row))
+				}
+				row = slices.Insert(row, to, row[from])
+			}
+		}
+		rows[i] = row
+	}
+	return rows
+}
+
+func TestWhateverIsTakenForATreeHasKeysThatRise(t *testing.T) {
+	rd := rand.New(rand.NewSource(4))
+	stop, back := 0, 0
+	for range 6000 {
+		rows := repeated(rd, randomRows(rd, 2+rd.Intn(3)))
+		l := pagesOf(rd, rows)
+		if blink.Check(l) == api.OK {
+			wantRisingAndFound(t, rd, l)
+		}
+		switch {
+		case slices.ContainsFunc(rows, func(row []string) bool { return !slices.IsSorted(row) }):
+			back++
+			wantNone(t, "a row that goes back", l)
+		case slices.ContainsFunc(rows, func(row []string) bool { return len(slices.Compact(slices.Clone(row))) < len(row) }):
+			stop++
+			wantTree(t, "a row with a page to which no key belongs", l, modelEntries(l))
+		}
+		if t.Failed() {
+			t.Fatalf("pages: %v", l)
+		}
+	}
+	if stop < 1000 || back < 1000 {
+		t.Errorf("%d rows with such a page, %d that go back: too few", stop, back)
 	}
 }
 

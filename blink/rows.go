@@ -83,22 +83,22 @@ func (l pages) row(first int) iter.Seq[spot] {
 func isRow(row []spot, level int) bool {
 	for i, s := range row {
 		isLast := i == len(row)-1
-		if s.node.Level != level || (s.node.Right == 0) != isLast || (s.node.High == "") != isLast || !s.hasKeysAboveLow() {
+		if s.node.Level != level || (s.node.Right == 0) != isLast || (s.node.High == "") != isLast || !s.keepsToLow() {
 			return false
 		}
 	}
 	return true
 }
 
-// hasKeysAboveLow tells whether no key is below the low end, nor, in an inner page, the same: there it would be the key ahead of the page itself.
-func (s spot) hasKeysAboveLow() bool {
+// keepsToLow tells whether nothing of a page is below its low end: no key (in an inner page none that is the same, either: it would be the key ahead of the page itself), and not its High, of which keys say nothing where there are none. A row whose Highs fall goes back to keys that belong to pages ahead, at which walks end: behind them, what it has would not be found. Where High is the low end, no key belongs to the page, and nothing is lost.
+func (s spot) keepsToLow() bool {
 	isInner := s.node.Level > 0
 	for _, k := range s.node.Keys {
 		if k < s.low || isInner && k == s.low {
 			return false
 		}
 	}
-	return true
+	return s.node.High == "" || s.node.High >= s.low
 }
 
 // isBelow tells whether each kid of the row above is a page of a row, with the low end at which it is looked for. Above the root there is no row, and beside it no page.

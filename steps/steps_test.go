@@ -1331,6 +1331,142 @@ func TestALongWalk(t *testing.T) {
 	}
 }
 
+// Rows whose Highs do not rise: what is taken for a tree keeps 14.3 to 14.5.
+
+// rowsThatGoBack are pages in which a High is below the one ahead of it. A walk to the keys behind it would end ahead of it, or a page would be posted where its low end is known already.
+func rowsThatGoBack() map[string][]redo.Slot {
+	root := redo.Slot{Page: 1, Node: inner(1, "", 0, []int{2})}
+	known := redo.Slot{Page: 1, Node: inner(1, "", 0, []int{2, 4, 3}, "c", "m")}
+	return map[string][]redo.Slot{
+		"k and d":                    {root, {Page: 2, Node: leaf("m", 3, "k")}, {Page: 3, Node: leaf("c", 4)}, {Page: 4, Node: leaf("", 0, "d")}},
+		"d alone":                    {root, {Page: 2, Node: leaf("m", 3)}, {Page: 3, Node: leaf("c", 4)}, {Page: 4, Node: leaf("", 0, "d")}},
+		"d twice":                    {root, {Page: 2, Node: leaf("m", 3, "d")}, {Page: 3, Node: leaf("c", 4)}, {Page: 4, Node: leaf("", 0, "d")}},
+		"k and d, all kids":          {known, {Page: 2, Node: leaf("m", 3, "k")}, {Page: 3, Node: leaf("c", 4)}, {Page: 4, Node: leaf("", 0, "d")}},
+		"a key below":                {root, {Page: 2, Node: leaf("m", 3, "k")}, {Page: 3, Node: leaf("c", 4, "b")}, {Page: 4, Node: leaf("", 0, "d")}},
+		"a key beyond":               {root, {Page: 2, Node: leaf("m", 3, "k")}, {Page: 3, Node: leaf("c", 4, "n")}, {Page: 4, Node: leaf("", 0, "d")}},
+		"an inner row":               innerRowThatGoesBack([]int{20}),
+		"an inner row, a key below":  innerRowThatGoesBack([]int{20, 12}, wide(20)),
+		"an inner row, a key beyond": innerRowThatGoesBack([]int{20, 20}, wide(99)),
+	}
+}
+
+// innerRowThatGoesBack is a tree but for its row of level 1: page 4 of it is full and has the key at which it is parted, 6 begins with that, too, and 5 between them, of some kids and keys, goes back to it. The first leaf is full: a put there parts it and page 4, whose right part is to be posted in page 3, where its key is the low end.
+func innerRowThatGoesBack(kids []int, keys ...string) []redo.Slot {
+	l := []redo.Slot{
+		{Page: 1, Node: inner(3, "", 0, []int{2, 3}, wide(60))},
+		{Page: 2, Node: inner(2, wide(60), 3, []int{4})},
+		{Page: 3, Node: inner(2, "", 0, []int{6})},
+		{Page: 4, Node: inner(1, wide(95), 5, []int{10})},
+		{Page: 5, Node: inner(1, wide(60), 6, kids, keys...)},
+		{Page: 6, Node: inner(1, "", 0, []int{16})},
+		{Page: 10, Node: leaf(wide(10), 11, letters("abcde")...)},
+	}
+	for i := 1; i <= 9; i++ { // page 10 + i begins with the key 10i
+		l[3].Node.Keys, l[3].Node.Kids = append(l[3].Node.Keys, wide(10*i)), append(l[3].Node.Kids, 10+i)
+		high := wide(10 * (i + 1))
+		if i == 9 {
+			high = wide(95)
+		}
+		l = append(l, redo.Slot{Page: 10 + i, Node: leaf(high, 11+i, wide(10*i))})
+	}
+	return append(l, redo.Slot{Page: 20, Node: leaf("", 0, wide(95))})
+}
+
+// wantPlainMap does operations on pages, if these are taken for a tree, and looks at the tree behind each step.
+func wantPlainMap(t *testing.T, l []redo.Slot) {
+	t.Helper()
+	if blink.Check(l) != api.OK {
+		return
+	}
+	r := newRun(t, l)
+	alone := func(op api.Op) {
+		t.Helper()
+		id := r.begin(op)
+		r.aloneToItsEnd(id)
+		r.check()
+	}
+	r.check()
+	entries, _ := blink.Entries(l)
+	for _, e := range entries {
+		alone(get(e.Key))
+		alone(scan(e.Key, ""))
+		alone(scan("", e.Key))
+	}
+	alone(scan("", ""))
+	for _, k := range append(letters("abcdefgklmno"), wide(5), wide(62), wide(99)) {
+		alone(put(k, big))
+		alone(get(k))
+		if v, ok := r.tree.Get(k); v != big || !ok {
+			t.Errorf("what was put is not found: %s: %q, %v", k, v, ok)
+		}
+	}
+	alone(scan("", ""))
+	for _, e := range entries {
+		alone(del(e.Key))
+		alone(get(e.Key))
+	}
+}
+
+func TestRowsThatGoBack(t *testing.T) {
+	for what, l := range rowsThatGoBack() {
+		t.Run(what, func(t *testing.T) { wantPlainMap(t, l) })
+	}
+}
+
+// stalled are the pages of a tree with more pages in its rows whose High is their low end, so that no key belongs to them: such are a tree.
+func stalled(rd *rand.Rand, l []redo.Slot, more int) []redo.Slot {
+	free := l[len(l)-1].Page + 1
+	for range more {
+		i := rd.Intn(len(l))
+		n := l[i].Node
+		if n.Right == 0 {
+			continue
+		}
+		between := api.Node{Level: n.Level, High: n.High, Right: n.Right}
+		if n.Level > 0 {
+			right, _ := redo.Find(l, n.Right)
+			between.Kids = []int{right.Kids[0]}
+		}
+		l[i].Node.Right = free
+		l = append(l, redo.Slot{Page: free, Node: between})
+		free++
+	}
+	return l
+}
+
+func TestPagesToWhichNoKeyBelongs(t *testing.T) {
+	wantPlainMap(t, []redo.Slot{
+		{Page: 1, Node: inner(1, "", 0, []int{2, 3}, "m")},
+		{Page: 2, Node: leaf("m", 3, "k")}, {Page: 3, Node: leaf("m", 4)}, {Page: 4, Node: leaf("", 0, "m")},
+	})
+	for seed := range 20 {
+		rd := rand.New(rand.NewSource(int64(seed)))
+		x := blink.New()
+		s := steps.New(x)
+		for range 150 {
+			s.Do(randomOp(rd, 400))
+		}
+		l := stalled(rd, x.Pages(), 30)
+		if e := blink.Check(l); e != api.OK {
+			t.Fatalf("no tree: %v", l)
+		}
+		r := newRun(t, l)
+		for range 800 {
+			running := r.s.Running()
+			if len(running) == 0 || len(running) < steps.MaxRunning && rd.Intn(3) == 0 {
+				r.begin(randomOp(rd, 400))
+				continue
+			}
+			r.step(running[rd.Intn(len(running))])
+			r.check()
+		}
+		for _, id := range r.s.Running() {
+			r.aloneToItsEnd(id)
+			r.check()
+		}
+	}
+}
+
 // 14.2
 
 func TestDoOfEachOperation(t *testing.T) {
