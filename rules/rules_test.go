@@ -390,3 +390,36 @@ func TestPhasesFallThroughToParting(t *testing.T) {
 		t.Errorf("steps: %d phases fall through to parting", n)
 	}
 }
+
+// isArrayType tells whether a type is an array's.
+func isArrayType(x types.Type) bool {
+	_, ok := x.(*types.Array)
+	return ok
+}
+
+func TestSlotsAreAnArrayThatIsRangedOver(t *testing.T) {
+	if !ranges(t, "points", isArrayType) {
+		t.Error("points: no loop over an array")
+	}
+}
+
+func TestImagesFallThrough(t *testing.T) {
+	if !has(t, files(t, token.NewFileSet(), "restart"), fallsThrough) {
+		t.Error("restart: no switch falls through")
+	}
+}
+
+// isCounted tells whether a node of the text is a constant that is counted.
+func isCounted(n ast.Node) bool {
+	x, ok := n.(*ast.ValueSpec)
+	return ok && slices.ContainsFunc(x.Values, func(v ast.Expr) bool {
+		name, ok := v.(*ast.Ident)
+		return ok && name.Name == "iota"
+	})
+}
+
+func TestStatesOfImagesAreCounted(t *testing.T) {
+	if !has(t, files(t, token.NewFileSet(), "restart"), isCounted) {
+		t.Error("restart: no constants are counted by iota")
+	}
+}
