@@ -172,11 +172,14 @@ func TestSectorsAreArrays(t *testing.T) {
 	}
 }
 
+// isCutByThree tells whether a node of the text is a slice with three indices.
+func isCutByThree(n ast.Node) bool {
+	x, ok := n.(*ast.SliceExpr)
+	return ok && x.Slice3
+}
+
 func TestMessagesAreCutByThreeIndices(t *testing.T) {
-	if !has(t, files(t, token.NewFileSet(), "net"), func(n ast.Node) bool {
-		x, ok := n.(*ast.SliceExpr)
-		return ok && x.Slice3
-	}) {
+	if !has(t, files(t, token.NewFileSet(), "net"), isCutByThree) {
 		t.Error("net: no slice with three indices")
 	}
 }
@@ -421,5 +424,25 @@ func isCounted(n ast.Node) bool {
 func TestStatesOfImagesAreCounted(t *testing.T) {
 	if !has(t, files(t, token.NewFileSet(), "restart"), isCounted) {
 		t.Error("restart: no constants are counted by iota")
+	}
+}
+
+func TestQueuesAreCutAtTheirFront(t *testing.T) {
+	if !has(t, files(t, token.NewFileSet(), "replay"), func(n ast.Node) bool {
+		return isCutByThree(n) && n.(*ast.SliceExpr).Low != nil // without it nothing is cut off at the front
+	}) {
+		t.Error("replay: no slice with three indices is cut at its front")
+	}
+}
+
+func TestWorkersAreCountedByARange(t *testing.T) {
+	if !rangesOver(t, "replay", types.IsInteger) {
+		t.Error("replay: no loop over a range of an integer")
+	}
+}
+
+func TestKeysOfAMapAreBroughtInOrderByAnIterator(t *testing.T) {
+	if !ranges(t, "fold", isFunction) {
+		t.Error("fold: no loop over a function")
 	}
 }
