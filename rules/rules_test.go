@@ -446,3 +446,34 @@ func TestKeysOfAMapAreBroughtInOrderByAnIterator(t *testing.T) {
 		t.Error("fold: no loop over a function")
 	}
 }
+
+// handsOn tells whether a node of the text calls a function of a package and hands a function literal on to it.
+func handsOn(pack, name string) func(ast.Node) bool {
+	return func(n ast.Node) bool {
+		x, ok := n.(*ast.CallExpr)
+		if !ok {
+			return false
+		}
+		f, ok := x.Fun.(*ast.SelectorExpr)
+		if !ok || f.Sel.Name != name {
+			return false
+		}
+		from, ok := f.X.(*ast.Ident)
+		return ok && from.Name == pack && slices.ContainsFunc(x.Args, func(a ast.Expr) bool {
+			_, ok := a.(*ast.FuncLit)
+			return ok
+		})
+	}
+}
+
+func TestMarksAreFoundByAnOrderThatIsHandedOn(t *testing.T) {
+	if !has(t, files(t, token.NewFileSet(), "line"), handsOn("slices", "BinarySearchFunc")) {
+		t.Error("line: no order is handed on to a binary search")
+	}
+}
+
+func TestRecordsThatFitAreToldByAnIterator(t *testing.T) {
+	if !ranges(t, "ship", isFunction) {
+		t.Error("ship: no loop over a function")
+	}
+}
