@@ -477,3 +477,23 @@ func TestRecordsThatFitAreToldByAnIterator(t *testing.T) {
 		t.Error("ship: no loop over a function")
 	}
 }
+
+func TestSetsAreGoneThroughByARange(t *testing.T) {
+	if !rangesOver(t, "quorum", types.IsInteger) {
+		t.Error("quorum: no loop over a range of an integer")
+	}
+}
+
+func TestPromisesAreHeldAgainstEachOtherAsStructs(t *testing.T) {
+	l, info := checked(t, "vote")
+	isPromise := func(x ast.Expr) bool {
+		named, ok := info.Types[x].Type.(*types.Named)
+		return ok && named.Obj().Name() == "Promise"
+	}
+	if !has(t, l, func(n ast.Node) bool {
+		x, ok := n.(*ast.BinaryExpr)
+		return ok && (x.Op == token.EQL || x.Op == token.NEQ) && isPromise(x.X) && isPromise(x.Y)
+	}) {
+		t.Error("vote: no promise is held against another one")
+	}
+}
