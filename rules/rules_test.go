@@ -306,15 +306,18 @@ func TestFramesAreGoneThroughByALabelledLoop(t *testing.T) {
 	}
 }
 
+// hasMap tells whether a node of the text is a struct of which a field is a map.
+func hasMap(n ast.Node) bool {
+	x, ok := n.(*ast.StructType)
+	return ok && slices.ContainsFunc(x.Fields.List, func(f *ast.Field) bool {
+		_, ok := f.Type.(*ast.MapType)
+		return ok
+	})
+}
+
 func TestPagesAreHeldInAMap(t *testing.T) {
 	l := files(t, token.NewFileSet(), "pool")
-	if !has(t, l, func(n ast.Node) bool {
-		x, ok := n.(*ast.StructType)
-		return ok && slices.ContainsFunc(x.Fields.List, func(f *ast.Field) bool {
-			_, ok := f.Type.(*ast.MapType)
-			return ok
-		})
-	}) {
+	if !has(t, l, hasMap) {
 		t.Error("pool: no field is a map")
 	}
 	if !has(t, l, calls("delete")) {
@@ -459,11 +462,14 @@ func handsOn(pack, name string) func(ast.Node) bool {
 			return false
 		}
 		from, ok := f.X.(*ast.Ident)
-		return ok && from.Name == pack && slices.ContainsFunc(x.Args, func(a ast.Expr) bool {
-			_, ok := a.(*ast.FuncLit)
-			return ok
-		})
+		return ok && from.Name == pack && slices.ContainsFunc(x.Args, isLiteral)
 	}
+}
+
+// isLiteral tells whether an expression is a function literal.
+func isLiteral(x ast.Expr) bool {
+	_, ok := x.(*ast.FuncLit)
+	return ok
 }
 
 func TestMarksAreFoundByAnOrderThatIsHandedOn(t *testing.T) {
@@ -495,5 +501,30 @@ func TestPromisesAreHeldAgainstEachOtherAsStructs(t *testing.T) {
 		return ok && (x.Op == token.EQL || x.Op == token.NEQ) && isPromise(x.X) && isPromise(x.Y)
 	}) {
 		t.Error("vote: no promise is held against another one")
+	}
+}
+
+func TestPagesThatStayAreToldByAFunctionThatIsHandedOn(t *testing.T) {
+	if !has(t, files(t, token.NewFileSet(), "rewind"), func(n ast.Node) bool {
+		x, ok := n.(*ast.CallExpr)
+		return ok && slices.ContainsFunc(x.Args, isLiteral)
+	}) {
+		t.Error("rewind: no function is handed on")
+	}
+}
+
+func TestRequestsAreSortedByAFunctionThatIsHandedOn(t *testing.T) {
+	if !has(t, files(t, token.NewFileSet(), "session"), handsOn("slices", "SortFunc")) {
+		t.Error("session: no order is handed on")
+	}
+}
+
+func TestRequestsWaitInAMap(t *testing.T) {
+	l := files(t, token.NewFileSet(), "session")
+	if !has(t, l, hasMap) {
+		t.Error("session: no field is a map")
+	}
+	if !has(t, l, calls("delete")) {
+		t.Error("session: what settles is not deleted")
 	}
 }
