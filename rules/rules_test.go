@@ -528,3 +528,104 @@ func TestRequestsWaitInAMap(t *testing.T) {
 		t.Error("session: what settles is not deleted")
 	}
 }
+
+// isMethodValue tells whether an expression, which is not called, is a method of a value.
+func isMethodValue(info *types.Info, x ast.Expr) bool {
+	s, ok := x.(*ast.SelectorExpr)
+	return ok && info.Selections[s] != nil && info.Selections[s].Kind() == types.MethodVal
+}
+
+// fieldsOf are the values of a row's fields.
+func fieldsOf(x ast.Expr) []ast.Expr {
+	row, ok := x.(*ast.CompositeLit)
+	if !ok {
+		return nil
+	}
+	var l []ast.Expr
+	for _, e := range row.Elts {
+		if field, ok := e.(*ast.KeyValueExpr); ok {
+			e = field.Value
+		}
+		l = append(l, e)
+	}
+	return l
+}
+
+// rowsWith counts, of a literal whose type is such, the rows that have a method value in a field.
+func rowsWith(t *testing.T, layer string, is func(types.Type) bool) int {
+	t.Helper()
+	l, info := checked(t, layer)
+	count := 0
+	for _, f := range l {
+		ast.Inspect(f, func(n ast.Node) bool {
+			x, ok := n.(*ast.CompositeLit)
+			if !ok || !is(info.Types[x].Type.Underlying()) {
+				return true
+			}
+			for _, row := range fieldsOf(x) {
+				if slices.ContainsFunc(fieldsOf(row), func(v ast.Expr) bool { return isMethodValue(info, v) }) {
+					count++
+				}
+			}
+			return true
+		})
+	}
+	return count
+}
+
+func TestMessagesDoWhatAMapSays(t *testing.T) {
+	isMap := func(x types.Type) bool {
+		_, ok := x.(*types.Map)
+		return ok
+	}
+	if n := rowsWith(t, "replica", isMap); n != 4 {
+		t.Errorf("replica: %d rows of a map have a method value, not one a kind of messages", n)
+	}
+}
+
+// recovers tells whether a node of the text has a function literal recover that is deferred.
+func recovers(n ast.Node) bool {
+	x, ok := n.(*ast.DeferStmt)
+	if !ok || !isLiteral(x.Call.Fun) {
+		return false
+	}
+	found := false
+	ast.Inspect(x.Call.Fun, func(n ast.Node) bool {
+		found = found || n != nil && calls("recover")(n)
+		return !found
+	})
+	return found
+}
+
+// asks tells whether a node of the text is an assertion of which it is asked whether it holds.
+func asks(n ast.Node) bool {
+	x, ok := n.(*ast.AssignStmt)
+	if !ok || len(x.Lhs) != 2 || len(x.Rhs) != 1 {
+		return false
+	}
+	a, ok := x.Rhs[0].(*ast.TypeAssertExpr)
+	return ok && a.Type != nil
+}
+
+func TestBrokenMessagesGiveUpByAPanic(t *testing.T) {
+	l := files(t, token.NewFileSet(), "replica")
+	if !has(t, l, recovers) {
+		t.Error("replica: no function literal that is deferred recovers")
+	}
+	if !has(t, l, calls("panic")) {
+		t.Error("replica: nothing gives up by a panic")
+	}
+	if !has(t, l, asks) {
+		t.Error("replica: no assertion tells whose panic it is")
+	}
+}
+
+func TestRulesAreFunctionsInFieldsOfRows(t *testing.T) {
+	isList := func(x types.Type) bool {
+		_, ok := x.(*types.Slice)
+		return ok
+	}
+	if n := rowsWith(t, "trace", isList); n != 6 {
+		t.Errorf("trace: %d rows have a rule's function, not one a rule", n)
+	}
+}
