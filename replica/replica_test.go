@@ -1710,3 +1710,85 @@ func TestTheSameAgain(t *testing.T) {
 		t.Error("the same choices do not do the same")
 	}
 }
+
+// P1: whatever right messages come, of whoever is a node, all calls end, each call is answered once at most, and behind a crash the log is a beginning of what was said.
+func TestAnyMessagesAreBorne(t *testing.T) {
+	r := rand.New(rand.NewSource(259))
+	met := map[int]int{}
+	for range 300 {
+		n := 1 + r.Intn(4)
+		id := r.Intn(n)
+		x := fresh(t, id, n)
+		answered, req := map[int]int{}, 0
+		take := func(d replica.Done) {
+			letters(t, d)
+			for _, a := range d.Answers {
+				answered[a.Req]++
+				met[a.Code]++
+				if answered[a.Req] > 1 || a.Req > req {
+					t.Fatalf("%+v is answered again, or was not called", a)
+				}
+			}
+		}
+		for range 150 {
+			v := x.View()
+			switch r.Intn(10) {
+			case 0:
+				for range r.Intn(20) {
+					take(x.Tick())
+				}
+			case 1, 2:
+				req++
+				take(x.Call(api.Call{Req: req, Op: anyOp(r, 20)}))
+			case 3, 4:
+				take(x.Work(r.Intn(10)))
+			case 5:
+				take(x.Sync())
+			case 6:
+				if r.Intn(5) == 0 {
+					synced := x.Log()[:v.Synced]
+					x.Crash(r.Intn(x.Waits()+1), r.Intn(api.PageSize+1))
+					x.Start()
+					if w := x.View(); w.Epoch > v.Epoch || w.Last != w.Synced || len(synced) > 0 && w.Last > 0 && x.Log()[0].LSN != 1 {
+						t.Fatalf("%+v, %+v", v, w)
+					}
+				}
+			default:
+				take(hear(t, x, r.Intn(n), anyMessage(r, x, v)))
+			}
+		}
+		if v := x.View(); v.Up {
+			met[100+v.Role]++
+		}
+	}
+	for _, what := range []int{api.AnOK, api.AnNotPrimary, api.AnStale, api.AnNotReady, api.AnDiskFull, 100 + replica.Standby, 100 + replica.Candidate, 100 + replica.Primary} {
+		if met[what] < 10 {
+			t.Errorf("%d was met %d times", what, met[what])
+		}
+	}
+}
+
+// anyMessage is a right one, often such that it is heard.
+func anyMessage(r *rand.Rand, x *replica.Node, v replica.View) replica.Message {
+	m := replica.Message{Kind: 1 + r.Intn(4), Epoch: max(v.Epoch+r.Intn(12)/5-r.Intn(9)/8, 0), Commit: r.Intn(v.Last + 5), OK: r.Intn(4) > 0}
+	lsn := r.Intn(v.Last + 2)
+	if r.Intn(2) == 0 {
+		lsn = v.Last
+	}
+	m.Mark = api.Mark{Epoch: r.Intn(3), LSN: lsn}
+	if lsn > 0 && lsn <= v.Last && r.Intn(8) > 0 {
+		m.Mark.Epoch = x.Log()[lsn-1].Epoch
+	}
+	epoch := m.Mark.Epoch
+	for i := range r.Intn(5) {
+		epoch = min(epoch+r.Intn(4)/3, m.Epoch+r.Intn(2))
+		one := anyRecord(r, lsn+1+i, epoch)
+		if r.Intn(2) == 0 { // one that may be of a tree
+			k := fmt.Sprintf("k%03d", r.Intn(20))
+			one = []api.Record{noop(0, 0), rePut(0, 0, 1, k, "v"), reDel(0, 0, 1, k), committed(0, 0, 1+r.Intn(99), k, "v")}[r.Intn(4)]
+			one.LSN, one.Epoch = lsn+1+i, epoch
+		}
+		m.Records = append(m.Records, one)
+	}
+	return m
+}

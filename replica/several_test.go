@@ -382,3 +382,115 @@ func mendings(l []api.Record) int {
 	}
 	return count
 }
+
+// quiet has all be synced and delivered, over and over, until nothing is in flight: the answers.
+func (x *several) quiet() []api.Answer {
+	x.t.Helper()
+	var l []api.Answer
+	for range 9 {
+		for i := range x.nodes {
+			l = append(l, x.step(api.Choice{Kind: api.ChSync, Node: i})...)
+		}
+		for x.net.Len() > 0 {
+			l = append(l, x.step(api.Choice{Kind: api.ChPick})...)
+		}
+	}
+	return l
+}
+
+// ticks has a node tick.
+func (x *several) ticks(node, count int) {
+	for range count {
+		x.step(api.Choice{Kind: api.ChTick, Node: node})
+	}
+}
+
+// elected has a node be primary of three.
+func (x *several) elected(node int) {
+	x.t.Helper()
+	x.ticks(node, patience(node))
+	x.quiet()
+	if v := x.nodes[node].View(); v.Role != replica.Primary {
+		x.t.Fatalf("%+v", v)
+	}
+}
+
+func (x *several) wantAnswer(l []api.Answer, a api.Answer) {
+	x.t.Helper()
+	if len(l) != 1 || !sameAnswer(l[0], a) {
+		x.t.Fatalf("%v, not %v", l, a)
+	}
+}
+
+// The document's examples of the whole, as far as nodes alone can have them.
+func TestExamplesOfTheWhole(t *testing.T) {
+	begin := func() *several {
+		x := newSeveral(t, 3)
+		x.elected(0)
+		wantView(t, x.nodes[0], replica.View{Role: replica.Primary, Epoch: 1, Last: 1, Synced: 1})
+		return x
+	}
+	put := func(x *several) { // a put, one step, a tick
+		x.call(0, putOp("a", "x"))
+		x.step(api.Choice{Kind: api.ChWork})
+		x.ticks(0, 1)
+	}
+	// 2 and 3.
+	x := begin()
+	put(x)
+	x.wantAnswer(x.quiet(), api.Answer{Req: 1, Code: api.AnOK})
+	if len(x.h) != 1 || x.h[0].Req != 1 {
+		t.Fatal(x.h)
+	}
+	x.wantAnswer(x.call(1, putOp("a", "x")), api.Answer{Req: 2, Node: 1, Code: api.AnNotPrimary})
+	x.wantAnswer(x.call(1, getOp("a")), api.Answer{Req: 3, Node: 1, Code: api.AnNotReady})
+	x.ticks(0, 1)
+	x.quiet()
+	x.step(api.Choice{Kind: api.ChWork, Node: 1, N: 1})
+	found := api.Result{Found: true, Value: "x"}
+	x.wantAnswer(x.call(1, getOp("a")), api.Answer{Req: 4, Node: 1, Code: api.AnOK, Result: found})
+	// 5: node 0 crashes behind the sync.
+	x.step(api.Choice{Kind: api.ChCrash})
+	x.elected(1)
+	if v := x.nodes[1].View(); v.Epoch != 2 {
+		t.Fatalf("%+v", v)
+	}
+	x.ticks(1, 1)
+	x.quiet()
+	x.call(1, getOp("a"))
+	x.wantAnswer(x.step(api.Choice{Kind: api.ChWork, Node: 1}), api.Answer{Req: 5, Node: 1, Code: api.AnOK, Result: found})
+	// 7.
+	for i := range 3 {
+		x.step(api.Choice{Kind: api.ChStart, Node: i})
+		x.wantAnswer(x.call(i, putOp("12345678901234567", "x")), api.Answer{Req: x.made, Node: i, Code: api.AnKeyTooLong})
+		x.wantAnswer(x.call(i, putOp("", "x")), api.Answer{Req: x.made, Node: i, Code: api.AnMalformed})
+	}
+	x.look()
+	// 4: node 0 crashes ahead of the sync.
+	x = begin()
+	put(x)
+	x.wantAnswer(x.step(api.Choice{Kind: api.ChCrash}), api.Answer{Req: 1, Code: api.AnTimeout})
+	x.step(api.Choice{Kind: api.ChStart})
+	x.goesOn()
+	if len(x.h) != 1 || x.h[0].Key != "zz" { // the one that goesOn puts
+		t.Fatal(x.h)
+	}
+	// 6: node 0 starts again with a record that no majority has.
+	x = begin()
+	x.ticks(0, 1)
+	x.quiet()
+	put(x)
+	x.nodes[0].Sync() // and what it says is lost
+	x.wantAnswer(x.step(api.Choice{Kind: api.ChCrash}), api.Answer{Req: 1, Code: api.AnTimeout})
+	x.elected(1)
+	x.step(api.Choice{Kind: api.ChStart})
+	wantLog(t, x.nodes[0], noop(1, 1), rePut(2, 1, 1, "a", "x"), committed(3, 1, 1, "a", "x"))
+	for range 3 {
+		x.ticks(1, 1)
+		x.quiet()
+	}
+	for _, node := range x.nodes {
+		wantLog(t, node, noop(1, 1), noop(2, 2))
+	}
+	x.look()
+}
