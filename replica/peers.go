@@ -147,11 +147,12 @@ func (x *Node) countVote(from int, m Message) {
 	}
 }
 
-// ascend has a candidate be primary that has won.
+// ascend has a candidate be primary that has won. It sends at once, so that its ReNoop can be committed ahead of its next tick.
 func (x *Node) ascend() {
 	if x.tally.Won() {
 		x.tally = nil
 		x.rule()
+		x.sendRecords()
 	}
 }
 

@@ -772,7 +772,6 @@ func TestWhatAPrimarySends(t *testing.T) {
 	}
 	x := primary(t, 0, 3, 2, log...)
 	log = append(log, noop(41, 3))
-	wantNothing(t, x.Tick()) // its ReNoop is not synced yet
 	send := func(mark, count, commit int) replica.Message {
 		m := replica.Message{Kind: replica.Append, Epoch: 3, Commit: commit, Records: log[mark : mark+count]}
 		if mark > 0 {
@@ -783,7 +782,8 @@ func TestWhatAPrimarySends(t *testing.T) {
 	acked := func(ok bool, lsn int) replica.Message {
 		return replica.Message{Kind: replica.Acked, Epoch: 3, OK: ok, Mark: api.Mark{LSN: lsn}}
 	}
-	wantLetters(t, x.Sync(), letter{1, send(40, 1, 0)}, letter{2, send(40, 1, 0)})
+	wantNothing(t, x.Tick()) // its ReNoop is not synced yet
+	wantLetters(t, x.Sync(), letter{1, send(40, 1, 0)}, letter{2, send(40, 1, 0)}, letter{1, send(40, 1, 0)}, letter{2, send(40, 1, 0)})
 	for range 3 {
 		wantLetters(t, x.Tick(), letter{1, send(40, 1, 0)}, letter{2, send(40, 1, 0)})
 	}
@@ -805,6 +805,28 @@ func TestWhatAPrimarySends(t *testing.T) {
 	wantLetters(t, x.Tick(), letter{1, send(40, 1, 41)}, letter{2, send(41, 0, 41)})
 	wantNothing(t, hear(t, x, 1, acked(true, 41)))
 	wantLetters(t, x.Tick(), letter{1, send(41, 0, 41)}, letter{2, send(41, 0, 41)})
+}
+
+// A new primary sends at once, not only at its next tick: also what it mended its tree by.
+func TestANewPrimarySendsAtOnce(t *testing.T) {
+	for n := 1; n <= api.MaxNodes; n++ {
+		for id := range n {
+			if n == 1 {
+				wantLetters(t, alone(t).Sync())
+				continue
+			}
+			x := primary(t, id, n, 2, noop(1, 2), rePut(2, 2, 1, "a", "x"))
+			mended := api.Record{LSN: 3, Epoch: 3, Kind: api.ReDel, Page: 1, Key: "a"} // whose commit is not there
+			m := replica.Message{Kind: replica.Append, Epoch: 3, Mark: api.Mark{Epoch: 2, LSN: 2}, Records: []api.Record{mended, noop(4, 3)}}
+			var want []letter
+			for _, i := range others(id, n) {
+				want = append(want, letter{i, m})
+			}
+			wantLetters(t, x.Sync(), want...)
+			wantNothing(t, x.Sync())
+			wantLetters(t, x.Tick(), want...)
+		}
+	}
 }
 
 func TestCommitOfAPrimary(t *testing.T) {

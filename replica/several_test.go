@@ -427,7 +427,7 @@ func TestExamplesOfTheWhole(t *testing.T) {
 	begin := func() *several {
 		x := newSeveral(t, 3)
 		x.elected(0)
-		wantView(t, x.nodes[0], replica.View{Role: replica.Primary, Epoch: 1, Last: 1, Synced: 1})
+		wantView(t, x.nodes[0], replica.View{Role: replica.Primary, Epoch: 1, Last: 1, Synced: 1, Commit: 1})
 		return x
 	}
 	put := func(x *several) { // a put, one step, a tick
@@ -437,18 +437,19 @@ func TestExamplesOfTheWhole(t *testing.T) {
 	}
 	// 2 and 3.
 	x := begin()
+	x.wantAnswer(x.call(1, getOp("a")), api.Answer{Req: 1, Node: 1, Code: api.AnNotReady})
 	put(x)
-	x.wantAnswer(x.quiet(), api.Answer{Req: 1, Code: api.AnOK})
-	if len(x.h) != 1 || x.h[0].Req != 1 {
+	x.wantAnswer(x.quiet(), api.Answer{Req: 2, Code: api.AnOK})
+	if len(x.h) != 1 || x.h[0].Req != 2 {
 		t.Fatal(x.h)
 	}
-	x.wantAnswer(x.call(1, putOp("a", "x")), api.Answer{Req: 2, Node: 1, Code: api.AnNotPrimary})
-	x.wantAnswer(x.call(1, getOp("a")), api.Answer{Req: 3, Node: 1, Code: api.AnNotReady})
+	x.wantAnswer(x.call(1, putOp("a", "x")), api.Answer{Req: 3, Node: 1, Code: api.AnNotPrimary})
+	x.wantAnswer(x.call(1, getOp("a")), api.Answer{Req: 4, Node: 1, Code: api.AnOK}) // its point is the ReNoop's
 	x.ticks(0, 1)
 	x.quiet()
 	x.step(api.Choice{Kind: api.ChWork, Node: 1, N: 1})
 	found := api.Result{Found: true, Value: "x"}
-	x.wantAnswer(x.call(1, getOp("a")), api.Answer{Req: 4, Node: 1, Code: api.AnOK, Result: found})
+	x.wantAnswer(x.call(1, getOp("a")), api.Answer{Req: 5, Node: 1, Code: api.AnOK, Result: found})
 	// 5: node 0 crashes behind the sync.
 	x.step(api.Choice{Kind: api.ChCrash})
 	x.elected(1)
@@ -458,7 +459,7 @@ func TestExamplesOfTheWhole(t *testing.T) {
 	x.ticks(1, 1)
 	x.quiet()
 	x.call(1, getOp("a"))
-	x.wantAnswer(x.step(api.Choice{Kind: api.ChWork, Node: 1}), api.Answer{Req: 5, Node: 1, Code: api.AnOK, Result: found})
+	x.wantAnswer(x.step(api.Choice{Kind: api.ChWork, Node: 1}), api.Answer{Req: 6, Node: 1, Code: api.AnOK, Result: found})
 	// 7.
 	for i := range 3 {
 		x.step(api.Choice{Kind: api.ChStart, Node: i})

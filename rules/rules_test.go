@@ -551,8 +551,8 @@ func fieldsOf(x ast.Expr) []ast.Expr {
 	return l
 }
 
-// rowsWith counts, of a literal whose type is such, the rows that have a method value in a field.
-func rowsWith(t *testing.T, layer string, is func(types.Type) bool) int {
+// rowsWith counts, of a literal whose type is such, the rows that have such a value in a field.
+func rowsWith(t *testing.T, layer string, is func(types.Type) bool, holds func(*types.Info, ast.Expr) bool) int {
 	t.Helper()
 	l, info := checked(t, layer)
 	count := 0
@@ -563,7 +563,7 @@ func rowsWith(t *testing.T, layer string, is func(types.Type) bool) int {
 				return true
 			}
 			for _, row := range fieldsOf(x) {
-				if slices.ContainsFunc(fieldsOf(row), func(v ast.Expr) bool { return isMethodValue(info, v) }) {
+				if slices.ContainsFunc(fieldsOf(row), func(v ast.Expr) bool { return holds(info, v) }) {
 					count++
 				}
 			}
@@ -573,13 +573,28 @@ func rowsWith(t *testing.T, layer string, is func(types.Type) bool) int {
 	return count
 }
 
+// isMapType tells whether a type is a map's.
+func isMapType(x types.Type) bool {
+	_, ok := x.(*types.Map)
+	return ok
+}
+
 func TestMessagesDoWhatAMapSays(t *testing.T) {
-	isMap := func(x types.Type) bool {
-		_, ok := x.(*types.Map)
-		return ok
-	}
-	if n := rowsWith(t, "replica", isMap); n != 4 {
+	if n := rowsWith(t, "replica", isMapType, isMethodValue); n != 4 {
 		t.Errorf("replica: %d rows of a map have a method value, not one a kind of messages", n)
+	}
+}
+
+func TestChoicesDoWhatRowsSay(t *testing.T) {
+	if n := rowsWith(t, "cluster", isMapType, isMethodValue); n != 10 {
+		t.Errorf("cluster: %d rows have a method value, not one a kind of choices", n)
+	}
+}
+
+func TestCommandsAreFunctionsInFieldsOfRows(t *testing.T) {
+	isValue := func(info *types.Info, x ast.Expr) bool { return isFunction(info.Types[x].Type.Underlying()) }
+	if n := rowsWith(t, "desk", isMapType, isValue); n != 13 {
+		t.Errorf("desk: %d rows of a map have a function, not one a command", n)
 	}
 }
 
@@ -607,16 +622,18 @@ func asks(n ast.Node) bool {
 	return ok && a.Type != nil
 }
 
-func TestBrokenMessagesGiveUpByAPanic(t *testing.T) {
-	l := files(t, token.NewFileSet(), "replica")
-	if !has(t, l, recovers) {
-		t.Error("replica: no function literal that is deferred recovers")
-	}
-	if !has(t, l, calls("panic")) {
-		t.Error("replica: nothing gives up by a panic")
-	}
-	if !has(t, l, asks) {
-		t.Error("replica: no assertion tells whose panic it is")
+func TestWhatIsBrokenGivesUpByAPanic(t *testing.T) {
+	for _, layer := range []string{"replica", "desk"} {
+		l := files(t, token.NewFileSet(), layer)
+		if !has(t, l, recovers) {
+			t.Errorf("%s: no function literal that is deferred recovers", layer)
+		}
+		if !has(t, l, calls("panic")) {
+			t.Errorf("%s: nothing gives up by a panic", layer)
+		}
+		if !has(t, l, asks) {
+			t.Errorf("%s: no assertion tells whose panic it is", layer)
+		}
 	}
 }
 
@@ -625,7 +642,7 @@ func TestRulesAreFunctionsInFieldsOfRows(t *testing.T) {
 		_, ok := x.(*types.Slice)
 		return ok
 	}
-	if n := rowsWith(t, "trace", isList); n != 6 {
+	if n := rowsWith(t, "trace", isList, isMethodValue); n != 6 {
 		t.Errorf("trace: %d rows have a rule's function, not one a rule", n)
 	}
 }
