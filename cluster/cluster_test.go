@@ -39,7 +39,6 @@ func TestNew(t *testing.T) {
 // 27.1: of a node that is none there is nothing, also where there are others.
 func TestNodesThatAreNone(t *testing.T) {
 	w := newWorld(t, "three", 3)
-	w.round(true)
 	for range 20 {
 		w.round(true)
 	}
@@ -247,7 +246,7 @@ func TestANetThatIsFull(t *testing.T) {
 	w.goesOn(true)
 }
 
-// rulers has a node of some be primary, all of it synced and delivered.
+// ruled is a cluster of which node 0 is primary, all of it synced and delivered.
 func ruled(t *testing.T, n int) *world {
 	t.Helper()
 	w := newWorld(t, fmt.Sprintf("%d nodes", n), n)

@@ -123,6 +123,82 @@ func TestDisksThatAreFull(t *testing.T) {
 	}
 }
 
+// among has all that some nodes say to one another be synced and delivered, and all else be lost, so many times.
+func (w *world) among(times int, nodes ...int) {
+	w.t.Helper()
+	for range times {
+		for _, i := range nodes {
+			w.step(api.Choice{Kind: api.ChSync, Node: i})
+		}
+		for range w.c.Flight() {
+			m := w.c.InFlight()[0]
+			if slices.Contains(nodes, m.From) && slices.Contains(nodes, m.To) {
+				w.step(api.Choice{Kind: api.ChPick})
+			} else {
+				w.step(api.Choice{Kind: api.ChDrop})
+			}
+		}
+	}
+}
+
+// reigns has a node tick until it is primary, by what some nodes say to one another.
+func (w *world) reigns(i int, nodes ...int) {
+	w.t.Helper()
+	for range 60 {
+		w.ticks(i, 1)
+		w.among(1, nodes...)
+		if w.views[i].Role == replica.Primary {
+			return
+		}
+	}
+	w.fatal("node ", i, " is no primary")
+}
+
+// 27.3, where a majority has records of an epoch ahead, and none yet of the primary's own: they may still be cut off.
+func TestWhatAMajorityHasOfAnEpochAhead(t *testing.T) {
+	w := newWorld(t, "an epoch ahead", 3)
+	w.reigns(0, 0, 1, 2)
+	w.ticks(0, 1)
+	w.among(3, 0, 1, 2)
+	for range 20 { // these none but node 0 has
+		w.call(0, api.Op{Kind: api.OpDel, Key: "none"})
+		w.step(api.Choice{Kind: api.ChWork})
+		w.step(api.Choice{Kind: api.ChWork})
+	}
+	w.among(1, 0)
+	w.step(api.Choice{Kind: api.ChCrash})
+	w.reigns(1, 1, 2)
+	w.among(1, 1) // its ReNoop none but node 1 has
+	w.step(api.Choice{Kind: api.ChCrash, Node: 1})
+	w.step(api.Choice{Kind: api.ChStart})
+	w.reigns(0, 0, 2)
+	for len(w.logs[2]) == 1 {
+		w.ticks(0, 1)
+		w.among(1, 0, 2)
+	}
+	w.among(2, 0, 2) // node 2 has some of node 0's, and node 0 knows
+	if n := len(w.logs[2]); n < replica.MaxSend || w.logs[2][n-1].Epoch != 1 || len(w.h) != 0 {
+		w.fatal(w.logs[2], w.h)
+	}
+	w.step(api.Choice{Kind: api.ChCrash})
+	w.step(api.Choice{Kind: api.ChStart, Node: 1})
+	w.reigns(1, 1, 2)
+	w.call(1, api.Op{Kind: api.OpPut, Key: "a", Value: "x"})
+	w.step(api.Choice{Kind: api.ChWork, Node: 1})
+	for range 4 {
+		w.ticks(1, 1)
+		w.among(2, 1, 2)
+	}
+	if len(w.h) != 1 || w.h[0].Key != "a" {
+		w.fatal(w.h)
+	}
+	w.check()
+	w.goesOn(true)
+	if len(w.h) != 2 || !slices.Equal(w.logs[0], w.logs[1]) || !slices.Equal(w.logs[0], w.logs[2]) {
+		w.fatal(w.h)
+	}
+}
+
 // script are the choices of a world in which anything happens.
 func script(t *testing.T, n int, seed int64, count int) []api.Choice {
 	t.Helper()
@@ -136,7 +212,7 @@ func script(t *testing.T, n int, seed int64, count int) []api.Choice {
 }
 
 // twins play a script on two clusters, on the second one with what a twist does to each choice; both must tell the same, and be the same.
-func twins(t *testing.T, what string, twist func(r *rand.Rand, c *cluster.Cluster, x api.Choice) []api.Answer) {
+func twins(t *testing.T, what string, twist func(r *rand.Rand, c *cluster.Cluster, n int, x api.Choice) []api.Answer) {
 	t.Helper()
 	for n := 1; n <= api.MaxNodes; n++ {
 		r := rand.New(rand.NewSource(int64(n)))
@@ -148,7 +224,7 @@ func twins(t *testing.T, what string, twist func(r *rand.Rand, c *cluster.Cluste
 			if e != api.OK {
 				t.Fatal(where, e)
 			}
-			if got := twist(r, b, x); !same(got, want) {
+			if got := twist(r, b, n, x); !same(got, want) {
 				t.Fatalf("%s: %v, not %v", where, got, want)
 			}
 			wantState(t, where, b, stateOf(a, n))
@@ -168,7 +244,7 @@ func stepped(t *testing.T, c *cluster.Cluster, x api.Choice) []api.Answer {
 
 // 27.8
 func TestTheSameChoicesDoTheSame(t *testing.T) {
-	twins(t, "again", func(_ *rand.Rand, c *cluster.Cluster, x api.Choice) []api.Answer { return stepped(t, c, x) })
+	twins(t, "again", func(_ *rand.Rand, c *cluster.Cluster, _ int, x api.Choice) []api.Answer { return stepped(t, c, x) })
 }
 
 // wrong are choices that are wrong whatever was done: of n nodes.
@@ -196,31 +272,27 @@ func wrong(n int) []api.Choice {
 
 // 27.1: a step that tells an error changes nothing.
 func TestWrongStepsChangeNothing(t *testing.T) {
-	twins(t, "with wrong steps", func(r *rand.Rand, c *cluster.Cluster, x api.Choice) []api.Answer {
-		n := 0
-		for c.View(n).Up || len(c.Log(n)) > 0 || n == 0 {
-			n++
-		}
-		l := wrong(api.MaxNodes)
+	twins(t, "with wrong steps", func(r *rand.Rand, c *cluster.Cluster, n int, x api.Choice) []api.Answer {
+		l := wrong(n)
 		for range 3 {
 			if got, e := c.Step(l[r.Intn(len(l))]); e != api.ErrArg || len(got) > 0 {
 				t.Fatalf("%v, %v", got, e)
 			}
 		}
-		l2 := stepped(t, c, x)
+		answers := stepped(t, c, x)
 		if x.Kind == api.ChCall { // it is there now
-			x.Call.Op, x.Call.Node = anyOp(r, 3), 0
+			x.Call.Op, x.Call.Node = anyOp(r, 3), r.Intn(n)
 			if got, e := c.Step(x); e != api.ErrState || len(got) > 0 {
 				t.Fatalf("%v, %v", got, e)
 			}
 		}
-		return l2
+		return answers
 	})
 }
 
 // 27.1: fields that a kind does not name are not looked at.
 func TestFieldsThatAreNotNamed(t *testing.T) {
-	twins(t, "with other fields", func(r *rand.Rand, c *cluster.Cluster, x api.Choice) []api.Answer {
+	twins(t, "with other fields", func(r *rand.Rand, c *cluster.Cluster, _ int, x api.Choice) []api.Answer {
 		y := api.Choice{Kind: x.Kind, Node: edge(r, -1, 0, 8, math.MaxInt-1), N: edge(r, -1, 0, 9), M: edge(r, -1, 0, 257), Call: api.Call{Req: 1 + r.Intn(99), Node: edge(r, -1, 0, 8), Op: anyOp(r, 9)}, Bytes: make([]byte, edge(r, 1, 65536))}
 		switch x.Kind {
 		case api.ChCall:
@@ -242,11 +314,7 @@ func TestFieldsThatAreNotNamed(t *testing.T) {
 
 // 27.6: strangers change nothing, also where their bytes are a message's that is in flight.
 func TestStrangersChangeNothing(t *testing.T) {
-	twins(t, "with strangers", func(r *rand.Rand, c *cluster.Cluster, x api.Choice) []api.Answer {
-		n := 1
-		for c.View(n) != (replica.View{}) {
-			n++
-		}
+	twins(t, "with strangers", func(r *rand.Rand, c *cluster.Cluster, n int, x api.Choice) []api.Answer {
 		l := [][]byte{nil, {}, anyBytes(r), make([]byte, 65535)}
 		for _, m := range c.InFlight() {
 			l = append(l, m.Bytes)
@@ -263,7 +331,7 @@ func TestStrangersChangeNothing(t *testing.T) {
 
 // R3: what is handed in is not changed and not kept, what is told shares nothing.
 func TestNothingIsSharedOrKept(t *testing.T) {
-	twins(t, "wiped", func(r *rand.Rand, c *cluster.Cluster, x api.Choice) []api.Answer {
+	twins(t, "wiped", func(_ *rand.Rand, c *cluster.Cluster, n int, x api.Choice) []api.Answer {
 		roomy := append(make([]byte, 0, len(x.Bytes)+9), x.Bytes...)
 		copy(roomy[len(roomy):cap(roomy)], "spare room")
 		was := slices.Clone(roomy[:cap(roomy)])
@@ -283,7 +351,7 @@ func TestNothingIsSharedOrKept(t *testing.T) {
 		}
 		wipe(answers)
 		wipe(c.H())
-		for i := range api.MaxNodes {
+		for i := range n {
 			wipe(c.Log(i))
 		}
 		return out

@@ -244,7 +244,7 @@ func TestTwoPutsThatPartOneLeaf(t *testing.T) {
 		w := newWorld(t, fmt.Sprintf("turns %b", turns), 1)
 		w.ticks(0, 10)
 		value := "12345678901234567890123456789012"
-		for _, k := range []string{"b", "d", "f", "h", "j", "l"} { // with one more of 38 bytes the leaf is full
+		for _, k := range []string{"b", "d", "f", "h", "j", "l"} { // the leaf has no room for a seventh
 			w.call(0, api.Op{Kind: api.OpPut, Key: k, Value: value})
 			for range 3 {
 				w.step(api.Choice{Kind: api.ChWork})
